@@ -95,13 +95,16 @@ func checkPlace(s Site, i int) api.Errno {
 	return api.OK
 }
 
-// hasSection says whether the Section of a page is there, and has the address above that of the page.
+// hasSection says whether the Section of a page is there, and the address of the page is that of the Section with one more part.
+// The Section may come later, so its own address need not be one.
 func hasSection(s Site, sections map[place]int, p Page) bool {
 	i, ok := sections[place{p.Language, directoryOf(p.Key)}]
-	if !ok || p.Address == "/" {
+	if !ok {
 		return false
 	}
-	return s.Pages[i].Address == directoryOf(strings.TrimSuffix(p.Address, "/"))+"/"
+	rest, ok := strings.CutPrefix(p.Address, s.Pages[i].Address)
+	part, ended := strings.CutSuffix(rest, "/")
+	return ok && ended && isPart(part)
 }
 
 func checkFiles(p Page) api.Errno {

@@ -132,6 +132,12 @@ func TestCheckSitePlaces(t *testing.T) {
 		"no root there":              {[]tree.Page{root, page("a", "de", "/de/a/", tree.Single)}, api.ErrNone},
 		"a section that comes later": {[]tree.Page{root, page("a/b", "en", "/a/b/", tree.Single), page("a", "en", "/b/", tree.Section)}, api.ErrNone},
 		"a section twice":            {[]tree.Page{root, page("a", "en", "/0/", tree.Section), page("a", "en", "/a/", tree.Section), page("a/b", "en", "/a/b/", tree.Single)}, api.ErrTwice},
+		"a later section's error":    {[]tree.Page{root, page("s/x", "en", "/aa/", tree.Single), page("s", "en", "/a", tree.Section)}, api.ErrPath},
+		"nothing but a slash":        {[]tree.Page{root, page("s/x", "en", "/aa/", tree.Single), page("s", "en", "/aa", tree.Section)}, api.ErrNone},
+		"the same address":           {[]tree.Page{root, page("s/x", "en", "/aa/", tree.Single), page("s", "en", "/aa/", tree.Section)}, api.ErrNone},
+		"two more parts in all":      {[]tree.Page{root, page("s/x", "en", "/aa/b/", tree.Single), page("s", "en", "/a", tree.Section)}, api.ErrNone},
+		"no part in all":             {[]tree.Page{root, page("s/x", "en", "/a../", tree.Single), page("s", "en", "/a", tree.Section)}, api.ErrNone},
+		"another beginning":          {[]tree.Page{root, page("s/x", "en", "/aa/", tree.Single), page("s", "en", "/b", tree.Section)}, api.ErrNone},
 		"languages not in order":     {[]tree.Page{page("", "de", "/de/", tree.Section), root}, api.ErrOrder},
 		"sections in a row":          {[]tree.Page{root, page("a", "en", "/b/", tree.Section), page("a/b", "en", "/b/c/", tree.Section), page("a/b/c", "en", "/b/c/d/", tree.Bundle)}, api.OK},
 	} {
