@@ -106,15 +106,17 @@ func hasValue(x Expr) bool {
 	return isZero(v)
 }
 
-// hasArgs says whether an expression has as many arguments as its Kind needs; those of functions are counted elsewhere.
+// hasArgs says whether an expression has as many arguments as its Kind needs: of a Func one or more, since how many its function needs is a question of its own.
 func hasArgs(x Expr) bool {
 	switch x.Kind {
 	case Field, Not:
 		return len(x.Args) == 1
 	case At, And, Or, Cmp:
 		return len(x.Args) == 2
+	case Func:
+		return len(x.Args) > 0
 	}
-	return len(x.Args) == 0 || x.Kind == Func
+	return len(x.Args) == 0
 }
 
 func isNumber(n int) bool { return n >= -maxNumber && n <= maxNumber }

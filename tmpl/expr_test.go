@@ -227,7 +227,10 @@ func TestFunctionNames(t *testing.T) {
 	for name, args := range known {
 		for n := range 5 {
 			want := api.OK
-			if n != args {
+			switch {
+			case n == 0:
+				want = api.ErrForm
+			case n != args:
 				want = api.ErrName
 			}
 			x := of(tmpl.Func, name, make([]tmpl.Expr, n)...)
@@ -243,7 +246,7 @@ func TestFunctionNames(t *testing.T) {
 			if _, e := tmpl.ParseExpr(s); e != want && n > 0 && want == api.OK {
 				t.Errorf("%s with %d arguments: error %d reading it", name, n, e)
 			}
-			if _, e := tmpl.Apply(name, values); (e == api.ErrName) != (want == api.ErrName) {
+			if _, e := tmpl.Apply(name, values); (e == api.ErrName) != (n != args) {
 				t.Errorf("%s with %d arguments: error %d applying it", name, n, e)
 			}
 		}
@@ -352,7 +355,10 @@ func TestPrintExprErrors(t *testing.T) {
 		{"a Func with a Name that is none", of(tmpl.Func, "Len", dot()), api.ErrForm},
 		{"a Func with a Value", tmpl.Expr{Kind: tmpl.Func, Name: "len", Value: str(""), Args: []tmpl.Expr{dot()}}, api.ErrForm},
 		{"an unknown Func", unknown, api.ErrName},
-		{"a Func without arguments", of(tmpl.Func, "len"), api.ErrName},
+		{"a Func without arguments", of(tmpl.Func, "len"), api.ErrForm},
+		{"an unknown Func without arguments", of(tmpl.Func, "foo"), api.ErrForm},
+		{"a Func without arguments in one with another number of them", of(tmpl.Func, "add", of(tmpl.Func, "len")), api.ErrName},
+		{"a Func without arguments before one of no Kind", of(tmpl.And, "", of(tmpl.Func, "len"), tmpl.Expr{}), api.ErrForm},
 		{"a Func with two", of(tmpl.Func, "len", dot(), dot()), api.ErrName},
 		{"a Not with a Name", of(tmpl.Not, "a", dot()), api.ErrForm},
 		{"a Not without an argument", of(tmpl.Not, ""), api.ErrForm},

@@ -120,6 +120,7 @@ func TestPrintErrors(t *testing.T) {
 		{"an Expr of no Kind", nodes(insert(bad)), api.ErrKind},
 		{"an Expr of no form", nodes(insert(of(tmpl.Not, ""))), api.ErrForm},
 		{"a byte in an Expr", nodes(insert(constant(str("\x01")))), api.ErrByte},
+		{"a function without arguments", nodes(insert(of(tmpl.Func, "len"))), api.ErrForm},
 		{"an unknown function", nodes(insert(unknown)), api.ErrName},
 		{"a deep Expr", nodes(insert(nots(13))), api.ErrDeep},
 		{"a form before a Kind", nodes(tmpl.Node{Kind: tmpl.Insert, Name: "a", Expr: bad}), api.ErrForm},
