@@ -41,9 +41,8 @@ func (j *joiner) parts(l []Part) {
 		if j.full {
 			return
 		}
-		if p.Name == "" {
-			j.add(p.Text)
-		} else {
+		j.add(p.Text)
+		if p.Name != "" {
 			j.shortcode(p)
 		}
 	}
