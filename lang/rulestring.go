@@ -223,13 +223,10 @@ func (r *ruleReader) within() (t Test, ok bool) {
 	return t, true
 }
 
-// number reads a number. One above all bounds is read as the first one that is.
+// number reads a number; behind a 0 it has no other digit. One above all bounds is read as the first one that is.
 func (r *ruleReader) number() (n int, ok bool) {
 	from := r.at
-	for r.at < len(r.text) && isDigit(r.text[r.at]) {
-		if r.at > from && r.text[from] == '0' {
-			return 0, false
-		}
+	for r.at < len(r.text) && isDigit(r.text[r.at]) && r.text[from:r.at] != "0" {
 		n = min(n*10+int(r.text[r.at]-'0'), maxHigh+1)
 		r.at++
 	}

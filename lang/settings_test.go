@@ -108,6 +108,8 @@ func TestLanguageValue(t *testing.T) {
 	expect(t, "german", got, e, want, api.OK)
 	got, e = lang.LanguageValue(lang.Language{Name: "x"})
 	expect(t, "nothing", got, e, table("group", text(""), "point", text("")), api.OK)
+	got, e = lang.LanguageValue(lang.Language{Name: "x", Letters: []string{"a"}, Strings: entries("b", "")})
+	expect(t, "one of each", got, e, table("group", text(""), "letters", texts("a"), "point", text(""), "strings", table("b", text(""))), api.OK)
 }
 
 // P8.2: languages that cannot be written as settings.
